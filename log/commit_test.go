@@ -330,6 +330,8 @@ func badPools() map[string]api.Pool {
 		"too long a log":      func(p *api.Pool) { p.Logged = 9 },
 		"a very long log":     func(p *api.Pool) { p.Logged = math.MaxInt },
 		"NextId is there":     func(p *api.Pool) { p.NextId = 255 },
+		"NextId 0, no lines":  func(p *api.Pool) { p.Lines, p.Changes, p.NextId = nil, nil, 0 },
+		"NextId below 0":      func(p *api.Pool) { p.Lines, p.Changes, p.NextId = nil, nil, -5 },
 		"changes of none":     func(p *api.Pool) { p.Changes = []api.Change{hole(2, 0, 0)} },
 		"changes that fall":   func(p *api.Pool) { p.Changes = []api.Change{hole(4, 0, 0), hole(1, 0, 0)} },
 		"a change that's bad": func(p *api.Pool) { p.Changes = []api.Change{hole(1, 16, 0)} },

@@ -69,18 +69,15 @@ func blocksOf(many int) int {
 	return max(1, (many+inBlock-1)/inBlock)
 }
 
-// block tells the root's block. It is a row of pointers, the first of which is none: what else it tells stands in its place.
-func (t trunk) block() ([]byte, api.Errno) {
-	head, e := put(trunkSizes(), rootMark, t.nextId, int(t.nextGuid), t.many)
-	if e != api.OK {
-		return nil, e
-	}
+// block tells the root's block. It is a row of pointers, the first of which is none: what else it tells stands in its place. It is asked of what may be alone, or was read: neither put nor Row refuses any.
+func (t trunk) block() []byte {
+	head, _ := put(trunkSizes(), rootMark, t.nextId, int(t.nextGuid), t.many)
 	row := make([]api.Ptr, 1+lineBlocks+1)
 	copy(row[1:], t.lines)
 	row[1+lineBlocks] = t.keys
-	block, e := ptr.Row(row)
+	block, _ := ptr.Row(row)
 	copy(block, head)
-	return block, e
+	return block
 }
 
 // trunkOf tells what the root's block is to tell, if it is one. That it is made once more, and held against block as a whole, asks for its first byte and all noughts.
@@ -92,8 +89,7 @@ func trunkOf(block []byte) (trunk, api.Errno) {
 		return trunk{}, api.ErrBad
 	}
 	t := trunk{nextId: numbers[1], nextGuid: uint32(numbers[2]), many: many, lines: row[1 : 1+blocksOf(many)], keys: row[1+lineBlocks]}
-	again, _ := t.block()
-	if !bytes.Equal(again, block) || slices.Contains(t.lines, api.Ptr{}) || !isThere(t.keys) {
+	if !bytes.Equal(t.block(), block) || slices.Contains(t.lines, api.Ptr{}) || !isThere(t.keys) {
 		return trunk{}, api.ErrBad
 	}
 	return t, api.OK

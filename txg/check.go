@@ -148,8 +148,8 @@ func mayHead(c api.Change) bool {
 		len(c.Data) == 0 && !isThere(c.Laid)
 }
 
-// mayNext asks nothing of NextId but what the lines ask: without lines it is above all there are.
+// mayNext asks for an Id, or the one behind them all, also where there are no lines that it would have to be above.
 func mayNext(p api.Pool) bool {
 	taken := func(l api.Line) bool { return l.Id >= p.NextId || l.Guid >= p.NextGuid }
-	return p.NextId <= api.MaxId+1 && !slices.ContainsFunc(p.Lines, taken)
+	return within(p.NextId, 1, api.MaxId+1) && !slices.ContainsFunc(p.Lines, taken)
 }

@@ -506,11 +506,11 @@ func TestP173LoadOrder(t *testing.T) {
 	wantLoad(t, "no root's block, all turned", d, l, api.ErrBad)
 }
 
-// Without lines any NextId up to 256 is read, and a greater one is refused.
+// Without lines any NextId from 1 to 256 is read, and another one is refused.
 func TestP173LoadNextId(t *testing.T) {
 	for _, n := range []int{0, 1, 255, 256, 257, 65535} {
 		want := api.OK
-		if n > 256 {
+		if n < 1 || n > 256 {
 			want = api.ErrBad
 		}
 		d, l := pagesOf(newShelf(), api.Pool{Keys: make([][]byte, 8), NextId: n}).laid()

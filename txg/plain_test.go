@@ -354,7 +354,7 @@ func plainMayBe(p api.Pool) bool {
 	if !plainLines(p.Lines) || !plainKeys(p.Keys, 24, true) || !plainKeys(p.Loaded, 16, false) || !plainChanges(p.Changes, p.Lines) {
 		return false
 	}
-	may := within(p.Logged, 0, 8) && p.NextId <= 256
+	may := within(p.Logged, 0, 8) && within(p.NextId, 1, 256)
 	for _, l := range p.Lines {
 		may = may && p.NextId > l.Id && p.NextGuid > l.Guid
 	}
@@ -565,9 +565,6 @@ func (x *plain) layMeta() {
 		to = append(to, own(filled(b)))
 	}
 	keys := own(slowKeys(x.p.Keys))
-	if !within(x.p.NextId, 0, 65535) {
-		leave(api.ErrArg)
-	}
 	x.p.Root = own(slowRoot(x.p.NextId, x.p.NextGuid, len(lines), to, keys))
 	slices.Sort(x.p.Meta)
 }

@@ -208,18 +208,18 @@ func (w *work) layMeta() {
 	}
 	t := trunk{nextId: w.NextId, nextGuid: w.NextGuid, many: len(all)}
 	for part := range slices.Chunk(all, inBlock) {
-		t.lines = append(t.lines, w.layOwn(linesBlock(part), api.OK))
+		t.lines = append(t.lines, w.layOwn(linesBlock(part)))
 	}
 	if len(all) == 0 {
-		t.lines = append(t.lines, w.layOwn(linesBlock(nil), api.OK))
+		t.lines = append(t.lines, w.layOwn(linesBlock(nil)))
 	}
-	t.keys = w.layOwn(keysBlock(w.Keys), api.OK)
+	t.keys = w.layOwn(keysBlock(w.Keys))
 	w.Root = w.layOwn(t.block())
 }
 
 // layOwn puts a block among the pool's own ones. They rise by themselves: each takes the lowest free block, and none becomes free within a sync.
-func (w *work) layOwn(block []byte, made api.Errno) api.Ptr {
-	p := w.lay(block, made)
+func (w *work) layOwn(block []byte) api.Ptr {
+	p := w.lay(block, api.OK)
 	w.Meta = append(w.Meta, p.At)
 	return p
 }

@@ -630,18 +630,26 @@ func TestP172Iv(t *testing.T) {
 	}
 }
 
-// Of a pool without lines the next Id may be any number up to 256; one below 0 has no bytes.
+// Of a pool without lines the next Id may be any Id, or 256; another number is none, and the pool may not be.
 func TestP172NextId(t *testing.T) {
-	for _, n := range []int{0, 1, 2, 255, 256} {
+	for _, n := range []int{1, 2, 255, 256} {
 		p := txg.New()
 		p.NextId = n
 		wantCheck(t, fmt.Sprint("NextId ", n), p, api.OK)
 		wantSync(t, fmt.Sprint("NextId ", n), p, api.OK)
 	}
-	for _, n := range []int{-1, -256, -65536, math.MinInt} {
+	for _, n := range []int{0, -1, -5, -255, -256, -65535, -65536, math.MinInt, 257, 65535, 65536, 65537, math.MaxInt} {
 		p := txg.New()
 		p.NextId = n
-		wantCheck(t, fmt.Sprint("NextId ", n), p, api.OK)
-		wantSync(t, fmt.Sprint("NextId ", n), p, api.ErrArg)
+		wantCheck(t, fmt.Sprint("NextId ", n), p, api.ErrBad)
+		wantSync(t, fmt.Sprint("NextId ", n), p, api.ErrBad)
+		// It is told ahead of what is wrong with the phase, and with Gen.
+		p.Gen, p.Root = mostTxg, api.Ptr{At: 12, Birth: 1}
+		wantSync(t, fmt.Sprint("NextId ", n, ", the greatest Gen"), p, api.ErrBad)
+		for _, phase := range []int{0, 1, 2, 3} {
+			if _, e := txg.Half(p, phase); e != api.ErrBad {
+				t.Errorf("Half, NextId %d, phase %d: %d", n, phase, e)
+			}
+		}
 	}
 }
